@@ -41,6 +41,55 @@ func Point(point []int, dim int) error {
 	return nil
 }
 
+// Search tells the first of the things a search is asked with that may not
+// be: the point, the counts, the filter, in the order of the document.
+func Search(point []int, dim, k, beam int, f api.Filter) error {
+	if err := Point(point, dim); err != nil {
+		return err
+	}
+	if !within(k, 1, api.MaxCap) {
+		return refusal.Finding{Thing: "k", Number: k, Err: refusal.Count}
+	}
+	if !within(beam, 1, api.MaxBeam) {
+		return refusal.Finding{Thing: "beam", Number: beam, Err: refusal.Count}
+	}
+	return filter(f)
+}
+
+func filter(f api.Filter) error {
+	if len(f.Clauses) > api.MaxClauses {
+		return refusal.Finding{Thing: "clauses", Number: len(f.Clauses), Err: refusal.Filter}
+	}
+	for place, conds := range f.Clauses {
+		if err := clause(conds); err != nil {
+			return refusal.Finding{Thing: "clause", Number: place, Err: err}
+		}
+	}
+	return nil
+}
+
+func clause(conds []api.Cond) error {
+	if len(conds) > api.MaxConds {
+		return refusal.Finding{Thing: "conditions", Number: len(conds), Err: refusal.Filter}
+	}
+	for place, c := range conds {
+		if err := condition(c); err != nil {
+			return refusal.Finding{Thing: "condition", Number: place, Err: err}
+		}
+	}
+	return nil
+}
+
+func condition(c api.Cond) error {
+	if !within(c.Tag, 0, api.Tags-1) {
+		return refusal.Finding{Thing: "tag", Number: c.Tag, Err: refusal.Filter}
+	}
+	if !within(c.Op, api.Equal, api.NotBelow) {
+		return refusal.Finding{Thing: "op", Number: c.Op, Err: refusal.Filter}
+	}
+	return nil
+}
+
 func within(n, low, high int) bool {
 	return low <= n && n <= high
 }

@@ -122,3 +122,49 @@ func TestARefusalChangesNothing(t *testing.T) {
 		wantEntry(t, b, 2, [2]int{4, 5}, 6)
 	}
 }
+
+func TestWhatASearchIsHandedIsNotChanged(t *testing.T) {
+	b := three(t, api.Squares)
+	point := []int{7, 1, 2, 8, 9}
+	conds := []api.Cond{{Value: 9}, {Tag: 0, Op: api.Equal, Value: 1}, {Tag: 1, Op: api.Below, Value: 9}, {Value: 8}}
+	clauses := [][]api.Cond{nil, conds[1:2], conds[1:3], nil}
+	wantPoint, wantConds := slices.Clone(point), slices.Clone(conds)
+	for _, k := range []int{1, 60, 0} {
+		b.Search(point[1:3], k, 5, api.Filter{Clauses: clauses[1:3]})
+		if !slices.Equal(point, wantPoint) || !slices.Equal(conds, wantConds) {
+			t.Fatalf("P1: what was handed in is %v, %v", point, conds)
+		}
+		if clauses[0] != nil || len(clauses[1]) != 1 || len(clauses[2]) != 2 || clauses[3] != nil {
+			t.Fatalf("P1: what was handed in is %v", clauses)
+		}
+	}
+}
+
+func TestWhatASearchIsHandedIsNotKept(t *testing.T) {
+	b := three(t, api.Squares)
+	point, clause := []int{0, 0}, []api.Cond{{Tag: 0, Op: api.Equal, Value: 1}}
+	hits, _ := b.Search(point, 1, 1, api.Filter{Clauses: [][]api.Cond{clause}})
+	fill(point, 5)
+	clause[0] = api.Cond{Tag: 99}
+	if !slices.Equal(hits, []api.Hit{{Id: 2, Distance: 25}}) {
+		t.Errorf("P1: the hits have become %v", hits)
+	}
+	wantFound(t, b, []int{0, 0}, 3, 1, api.Filter{}, api.Hit{Id: 1}, api.Hit{Id: 2, Distance: 25}, api.Hit{Id: 3, Distance: 36})
+}
+
+func TestHitsAreNewMemory(t *testing.T) {
+	b := three(t, api.Squares)
+	want := []api.Hit{{Id: 1}, {Id: 2, Distance: 25}, {Id: 3, Distance: 36}}
+	for k := 1; k <= 3; k++ {
+		one, _ := b.Search([]int{0, 0}, k, 10, api.Filter{})
+		two, _ := b.Search([]int{0, 0}, k, 10, api.Filter{})
+		spare := one[:cap(one)]
+		for i := range spare {
+			spare[i] = api.Hit{Id: 99, Distance: 99}
+		}
+		if !slices.Equal(two, want[:k]) || slices.Contains(two[:cap(two)], api.Hit{Id: 99, Distance: 99}) {
+			t.Errorf("P1: two answers share memory: %v", two[:cap(two)])
+		}
+		wantFound(t, b, []int{0, 0}, 3, 1, api.Filter{}, want...)
+	}
+}

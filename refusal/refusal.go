@@ -16,6 +16,8 @@ const (
 	Coord  = Reason(api.ErrCoord)
 	Full   = Reason(api.ErrFull)
 	None   = Reason(api.ErrNone)
+	Count  = Reason(api.ErrCount)
+	Filter = Reason(api.ErrFilter)
 )
 
 func (r Reason) Error() string {

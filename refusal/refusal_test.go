@@ -15,6 +15,8 @@ func TestReasonsAreTheErrnos(t *testing.T) {
 		refusal.Coord:  api.ErrCoord,
 		refusal.Full:   api.ErrFull,
 		refusal.None:   api.ErrNone,
+		refusal.Count:  api.ErrCount,
+		refusal.Filter: api.ErrFilter,
 	} {
 		if api.Errno(reason) != errno {
 			t.Errorf("reason %d, want %d", reason, errno)

@@ -32,3 +32,15 @@ func TestErrorsAreWrappedByTheEntrysNumber(t *testing.T) {
 		t.Errorf("P3: Put of one that is there: %v, of %d", err, s.Count())
 	}
 }
+
+func TestPeekTellsWhatIsKept(t *testing.T) {
+	s := store.New(1)
+	point := []int{2, 3}
+	if err := s.Put(api.Entry{Id: 1, Point: point, Tags: [api.Tags]int{4, 5}}); err != nil {
+		t.Fatalf("P3: %v", err)
+	}
+	point[0] = 99
+	if e := s.Peek(1); e.Id != 1 || e.Point[0] != 2 || e.Point[1] != 3 || e.Tags != [api.Tags]int{4, 5} {
+		t.Errorf("P3: %v is kept", e)
+	}
+}
