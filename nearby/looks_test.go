@@ -2,7 +2,6 @@ package nearby_test
 
 import (
 	"math/rand"
-	"slices"
 	"testing"
 
 	"nearby/api"
@@ -74,29 +73,5 @@ func TestANarrowBeamSavesLooks(t *testing.T) {
 	}
 	if n := b.Looks(); n > 100*30 {
 		t.Errorf("P8: %d looks in 100 searches of one of 60", n)
-	}
-}
-
-func TestSearchAndLooksChangeNothing(t *testing.T) {
-	draws := rand.New(rand.NewSource(5))
-	quiet, asked := newModel(t, rand.New(rand.NewSource(5))), newModel(t, rand.New(rand.NewSource(5)))
-	for seed := range int64(200) {
-		quiet.change(t, rand.New(rand.NewSource(seed)))
-		asked.change(t, rand.New(rand.NewSource(seed)))
-		for range 3 {
-			asked.search(t, draws)
-			asked.base.Looks()
-			asked.base.Get(int(seed))
-			asked.base.Count()
-		}
-	}
-	for range 100 {
-		point, k, beam := quiet.point(draws), 1+draws.Intn(5), 1+draws.Intn(5)
-		want, _ := quiet.base.Search(point, k, beam, api.Filter{})
-		for range 2 {
-			if got, e := asked.base.Search(point, k, beam, api.Filter{}); e != api.OK || !slices.Equal(got, want) {
-				t.Fatalf("P7: Search(%v, %d, %d) = %v, %d, want %v", point, k, beam, got, e, want)
-			}
-		}
 	}
 }

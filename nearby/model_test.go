@@ -17,18 +17,23 @@ type model struct {
 	base   *nearby.Base
 	there  map[int]api.Entry
 	levels map[int]int
+	came   []int // what the last change has put in
 }
 
 func newModel(t *testing.T, draws *rand.Rand) *model {
 	t.Helper()
-	c := api.Config{
+	return modelOf(t, api.Config{
 		Dim:    1 + draws.Intn(api.MaxDim),
 		Cap:    1 + draws.Intn(api.MaxCap),
 		Links:  api.MinLinks + draws.Intn(api.MaxLinks-api.MinLinks+1),
 		Metric: draws.Intn(3),
 		Beam:   1 + draws.Intn(12),
 		Top:    draws.Intn(api.MaxTop + 1),
-	}
+	})
+}
+
+func modelOf(t *testing.T, c api.Config) *model {
+	t.Helper()
 	return &model{config: c, base: newBase(t, c), there: map[int]api.Entry{}, levels: map[int]int{}}
 }
 
@@ -45,6 +50,10 @@ func (m *model) put(t *testing.T, id int, point []int, tags [2]int, draw uint64)
 	if e := m.base.Put(id, point, tags, draw); e != want {
 		t.Fatalf("P3: Put(%d, %v) = %d, want %d", id, point, e, want)
 	}
+	m.came = []int{id}
+	if want != api.OK {
+		m.came = nil
+	}
 }
 
 func (m *model) delete(t *testing.T, id int) {
@@ -55,6 +64,7 @@ func (m *model) delete(t *testing.T, id int) {
 	}
 	delete(m.there, id)
 	delete(m.levels, id)
+	m.came = nil
 	if e := m.base.Delete(id); e != want {
 		t.Fatalf("P3: Delete(%d) = %d, want %d", id, e, want)
 	}

@@ -79,7 +79,9 @@ func (b *Base) Search(point []int, k int, beam int, f api.Filter) ([]api.Hit, ap
 }
 
 // Graph tells the links (P6).
-func (b *Base) Graph() api.Graph { return api.Graph{} }
+func (b *Base) Graph() api.Graph {
+	return b.graph.Tell()
+}
 
 // Looks tells how often distances were worked out (P8).
 func (b *Base) Looks() int {

@@ -204,6 +204,7 @@ func TestSearchIsNeverShortAndExactWhereItMustBe(t *testing.T) {
 		m := newModel(t, draws)
 		for range 150 {
 			m.change(t, draws)
+			m.graph(t)
 			m.search(t, draws)
 		}
 	}
@@ -221,17 +222,17 @@ func TestSearchOfOddPlaces(t *testing.T) {
 	} {
 		t.Run(name, func(t *testing.T) {
 			for metric := range 3 {
-				m := newModel(t, draws)
-				m.config = api.Config{Dim: 1, Cap: 60, Links: 2, Metric: metric, Beam: 1, Top: 5}
-				m.base = newBase(t, m.config)
+				m := modelOf(t, api.Config{Dim: 1, Cap: 60, Links: 2, Metric: metric, Beam: 1, Top: 5})
 				for id := range 60 {
 					m.put(t, id, []int{min(place(id), api.MaxCoord)}, [2]int{id % 4, id % 7}, draws.Uint64())
+					m.graph(t)
 				}
 				for range 60 {
 					m.search(t, draws)
 				}
 				for id := 0; id < 60; id += 2 {
 					m.delete(t, id)
+					m.graph(t)
 					m.search(t, draws)
 				}
 			}
